@@ -117,8 +117,9 @@ var goodLasts = [][]impl.Done{
 	{had(1, 100000, -1000000000), had(9, 1, 1000000000)},
 	{none(2, 7), had(3, 7, 0), none(4, 6)},
 	{had(1, 9, 1), had(2, 8, 1), had(3, 7, 1)},
-	{{Client: 4, Seq: 1, V: 5}}, // what it came to may be anything: the chapter names no limit of it
-	{had(4, 1, math.MaxInt), had(5, 1, math.MinInt)},
+	{{Client: 4, Seq: 1, V: 5}}, // a V of what has none: its limits alone count
+	{{Client: 4, Seq: 1, V: -1000000000}, {Client: 5, Seq: 1, V: 1000000000}},
+	{had(4, 1, 1000000000), had(5, 1, -1000000000), had(6, 1, 999999999)},
 	nine(1),
 	nine(100000),
 }
@@ -150,6 +151,18 @@ var badLasts = [][]impl.Done{
 	append([]impl.Done{none(0, 5)}, nine(5)...),
 	{{}, none(1, 1)},
 	{none(1, 1), {}},
+	{had(1, 1, 1000000001)},
+	{had(1, 1, -1000000001)},
+	{had(9, 100000, math.MaxInt)},
+	{had(9, 100000, math.MinInt)},
+	{{Client: 1, Seq: 1, V: 1000000001}},
+	{{Client: 1, Seq: 1, V: -1000000001}},
+	{{Client: 1, Seq: 1, V: math.MaxInt}},
+	{{Client: 1, Seq: 1, V: math.MinInt}},
+	{had(1, 1, 1000000001), had(2, 1, 1), none(3, 1)},
+	{had(1, 1, 1), had(2, 1, -1000000001), none(3, 1)},
+	{none(1, 1), had(2, 1, 1), had(3, 1, 1000000001)},
+	append(nine(5)[:8], had(9, 5, -1000000001)),
 }
 
 func TestMachineOk(t *testing.T) {
@@ -251,6 +264,7 @@ func TestLastOfEachClient(t *testing.T) {
 		{"ahead of others", []impl.Done{had(5, 3, 1), had(7, 3, 2)}, 4, 0, 1},
 		{"between others", []impl.Done{had(3, 3, 1), had(5, 3, 2)}, 4, 1, 1},
 		{"behind others", []impl.Done{had(1, 3, 1), had(3, 3, 2)}, 4, 2, 1},
+		{"between those that came to the limits", []impl.Done{had(3, 3, 1000000000), had(5, 3, -1000000000)}, 4, 1, 1},
 		{"in place of its own", []impl.Done{had(1, 3, 1), had(4, 3, 2), none(9, 3)}, 4, 1, 0},
 		{"in place of its own alone", []impl.Done{had(4, 3, 2)}, 4, 0, 0},
 		{"in place of the first", nine(3), 1, 0, 0},
@@ -289,9 +303,9 @@ func TestNumbersThatAreOlder(t *testing.T) {
 	for seq := -2; seq < 12; seq++ {
 		staysWith(t, "nothing with a number", m, cmd(0, seq, impl.Msg{}), impl.Done{})
 	}
-	strange := machine(leaf(5, 7), impl.Done{Client: 1, Seq: 4, V: math.MinInt}, had(2, 4, math.MaxInt))
-	staysWith(t, "that last, as it stands", strange, cmd(1, 4, get(5)), impl.Done{Client: 1, Seq: 4, V: math.MinInt})
-	staysWith(t, "that last, as it stands", strange, cmd(2, 4, put(5, 1)), had(2, 4, math.MaxInt))
+	strange := machine(leaf(5, 7), impl.Done{Client: 1, Seq: 4, V: -1000000000}, had(2, 4, 1000000000))
+	staysWith(t, "that last, as it stands", strange, cmd(1, 4, get(5)), impl.Done{Client: 1, Seq: 4, V: -1000000000})
+	staysWith(t, "that last, as it stands", strange, cmd(2, 4, put(5, 1)), had(2, 4, 1000000000))
 }
 
 func TestWhatIsNoCommandTurnsNothing(t *testing.T) {
@@ -457,7 +471,7 @@ func cmdOkByTheWord(c impl.Cmd) bool {
 func machineOkByTheWord(m impl.Machine) bool {
 	before := 0
 	for _, d := range m.Last {
-		if d.Client <= before || d.Client > 9 || d.Seq < 1 || d.Seq > 100000 {
+		if d.Client <= before || d.Client > 9 || d.Seq < 1 || d.Seq > 100000 || d.V < -1000000000 || d.V > 1000000000 {
 			return false
 		}
 		before = d.Client
