@@ -183,11 +183,33 @@ func TestRpcOkBySize(t *testing.T) {
 			for _, to := range numbers {
 				r := plainRpc(impl.RpPut)
 				r.From, r.To = from, to
-				want := from >= 0 && from < size && to >= 0 && to < size && from != to
+				want := size <= 5 && from >= 0 && from < size && to >= 0 && to < size && from != to
 				if got := impl.RpcOk(r, size); got != want {
 					t.Error("told", got, "from", from, "to", to, "of", size)
 				}
 			}
+		}
+	}
+}
+
+// From and To are right at every size from 2 on, so that the limit of size alone decides beyond MaxNodes.
+func TestRpcOkAtTheLimitOfSize(t *testing.T) {
+	for _, kind := range rpcKinds {
+		r := plainRpc(kind)
+		r.From, r.To = 0, 1
+		for _, size := range []int{2, 3, 4, impl.MaxNodes} {
+			if !impl.RpcOk(r, size) || !rpcOkByTheWord(r, size) {
+				t.Error("refused of Kind", kind, "at size", size)
+			}
+		}
+		for _, size := range []int{math.MinInt, -1, 0, 1, impl.MaxNodes + 1, impl.MaxNodes + 2, 1 << 40, math.MaxInt - 1, math.MaxInt} {
+			if impl.RpcOk(r, size) || rpcOkByTheWord(r, size) {
+				t.Error("accepted of Kind", kind, "at size", size)
+			}
+		}
+		r.From, r.To = impl.MaxNodes-1, impl.MaxNodes-2
+		if !impl.RpcOk(r, impl.MaxNodes) || impl.RpcOk(r, impl.MaxNodes-1) || impl.RpcOk(r, impl.MaxNodes+1) {
+			t.Error("of Kind", kind, "from the last one of MaxNodes")
 		}
 	}
 }
@@ -202,7 +224,7 @@ func rpcOkByTheWord(r impl.Rpc, size int) bool {
 	default:
 		return false
 	}
-	if r.From < 0 || r.From >= size || r.To < 0 || r.To >= size || r.From == r.To {
+	if size > 5 || r.From < 0 || r.From >= size || r.To < 0 || r.To >= size || r.From == r.To {
 		return false
 	}
 	for _, x := range []int{r.Term, r.Index, r.IndexTerm, r.Commit} {
