@@ -122,17 +122,14 @@ func gotHeardByTheWord(n impl.Node, size int, r impl.Rpc) impl.Node {
 		return n
 	}
 	n.Next, n.Match = slices.Clone(n.Next), slices.Clone(n.Match)
-	next, match := n.Next[r.From], n.Match[r.From]
-	switch {
-	case r.Ok && r.Index > match && r.Index <= n.Log.Base+len(n.Log.List):
+	if r.Ok && r.Index > n.Match[r.From] && r.Index <= n.Log.Base+len(n.Log.List) {
 		n.Match[r.From] = r.Index
-		if next < r.Index+1 {
-			n.Next[r.From] = r.Index + 1
-		}
-	case !r.Ok && r.Index+1 < next && r.Index+1 < match+1:
-		n.Next[r.From] = match + 1
-	case !r.Ok && r.Index+1 < next:
+	}
+	if !r.Ok && r.Index+1 < n.Next[r.From] {
 		n.Next[r.From] = r.Index + 1
+	}
+	if n.Next[r.From] < n.Match[r.From]+1 {
+		n.Next[r.From] = n.Match[r.From] + 1
 	}
 	if r.Ok {
 		n = countByTheWord(n, size)
@@ -181,6 +178,8 @@ func staysRight(t *testing.T, name string, n impl.Node, size int, r impl.Rpc, go
 		t.Fatal(name, "voted for two in one Term:", got, "of", n, r)
 	case len(told) > 1:
 		t.Fatal(name, "told", told)
+	case r.Kind == impl.RpGot && n.Role == impl.RoLead && r.Term == n.Term && got.Next[r.From] <= got.Match[r.From]:
+		t.Fatal(name, "is to feed what the other one has:", got, "of", n, r)
 	}
 	if from := got.Log.Base + 1; from <= n.Commit && !slices.Equal(committed(got, from)[:n.Commit-from+1], committed(n, from)) {
 		t.Fatal(name, "turned what was committed:", got, "of", n, r)
@@ -719,8 +718,31 @@ func TestHearGot(t *testing.T) {
 		{"not, Match at the last", 7, 6, false, 0, 7, 6},
 		{"not, from nothing", 1, 0, false, 0, 1, 0},
 
+		{"Next at Match, at Match", 3, 3, true, 3, 4, 3},
+		{"Next at Match, below it", 3, 3, true, 2, 4, 3},
+		{"Next at Match, above it", 3, 3, true, 4, 5, 4},
+		{"Next below Match, at Match", 1, 3, true, 3, 4, 3},
+		{"Next below Match, below it", 1, 3, true, 2, 4, 3},
+		{"Next below Match, at 0", 1, 3, true, 0, 4, 3},
+		{"Next below Match, above it", 1, 3, true, 5, 6, 5},
+		{"Next below Match, one beyond the last number", 1, 3, true, 7, 4, 3},
+		{"Next below Match, far beyond the last number", 1, 3, true, 100000, 4, 3},
+		{"Next at Match, which is the last number", 6, 6, true, 6, 7, 6},
+		{"Next below Match, which is the last number", 1, 6, true, 100000, 7, 6},
+		{"Next below Match, of what was cut off", 1, 1, true, 1, 2, 1},
+
 		{"not, Next at Match", 3, 3, false, 1, 4, 3},
-		{"not, Next below Match, and no less", 3, 5, false, 2, 3, 5},
+		{"not, Next at Match, one less", 3, 3, false, 2, 4, 3},
+		{"not, Next at Match, and no less", 3, 3, false, 3, 4, 3},
+		{"not, Next below Match, and no less", 3, 5, false, 2, 6, 5},
+		{"not, Next below Match, and one less", 3, 5, false, 1, 6, 5},
+		{"not, Next below Match, at 0", 1, 3, false, 0, 4, 3},
+		{"not, Next below Match, at Match", 1, 3, false, 3, 4, 3},
+		{"not, Next below Match, above Match", 1, 3, false, 4, 4, 3},
+		{"not, Next below Match, far beyond", 1, 3, false, 100000, 4, 3},
+		{"not, Next at Match, which is the last number", 6, 6, false, 6, 7, 6},
+		{"not, Next below Match, which is the last number", 1, 6, false, 0, 7, 6},
+		{"not, Next below Match, of what was cut off", 1, 1, false, 0, 2, 1},
 	} {
 		for _, role := range roles {
 			n := leaderOf(1, 5, 2, termLog(2, 1, 1, 2, 4, 4), c.match, 6, 0)
@@ -768,6 +790,7 @@ func TestHearGotCounts(t *testing.T) {
 		{4, 2, []int{4, 6, 0}, 2, 4, 2},
 		{4, 2, []int{6, 6, 0}, 2, 0, 6},
 		{4, 2, []int{6, 6, 0}, 2, 100000, 6},
+		{4, 2, []int{6, 6, 0}, 0, 4, 6}, // Match stays, and Next is above it
 		{4, 2, []int{0, 0, 0}, 0, 6, 2},
 		{4, 2, []int{0, 0, 6}, 0, 5, 5},
 
@@ -789,8 +812,9 @@ func TestHearGotCounts(t *testing.T) {
 		want := n
 		want.Next, want.Match = each(size, 6), slices.Clone(c.match)
 		if c.index > c.match[c.from] && c.index <= 6 {
-			want.Match[c.from], want.Next[c.from] = c.index, max(6, c.index+1)
+			want.Match[c.from] = c.index
 		}
+		want.Next[c.from] = max(6, want.Match[c.from]+1)
 		if c.want > c.commit {
 			want.Commit = c.want
 			for _, e := range n.Log.List[c.commit-2 : c.want-2] {
@@ -800,9 +824,7 @@ func TestHearGotCounts(t *testing.T) {
 		hears(t, "one that counts", n, size, hasUpTo(c.from, 1, c.term, true, c.index), want)
 		hearsOfNot := n
 		hearsOfNot.Next = slices.Clone(n.Next)
-		if c.index+1 < 6 {
-			hearsOfNot.Next[c.from] = max(c.index+1, c.match[c.from]+1)
-		}
+		hearsOfNot.Next[c.from] = max(min(6, c.index+1), c.match[c.from]+1)
 		hears(t, "one that has it not counts nothing", n, size, hasUpTo(c.from, 1, c.term, false, c.index), hearsOfNot)
 	}
 }
@@ -824,6 +846,25 @@ func TestHearGotOfEachNumber(t *testing.T) {
 	}
 }
 
+// Next of From alone is held against its Match: what is known of others stays, however it stands.
+func TestHearGotTurnsFromAlone(t *testing.T) {
+	for from := range 5 {
+		if from == 2 {
+			continue
+		}
+		for _, ok := range []bool{false, true} {
+			n := leaderOf(2, 5, 2, termLog(2, 1, 1, 2, 4, 4), 3, 4, 6, 5, 6)
+			n.Next = []int{1, 4, 6, 2, 3}
+			for _, index := range []int{0, 3, 100000} {
+				want := n
+				want.Next = slices.Clone(n.Next)
+				want.Next[from] = n.Match[from] + 1
+				hears(t, "of From alone", n, 5, hasUpTo(from, 2, 5, ok, index), want)
+			}
+		}
+	}
+}
+
 func TestHearGotAtTheLimits(t *testing.T) {
 	n := leaderOf(1, 100000, 99998, termLog(99998, 2, 100000, 100000), 0, 100000)
 	n.Next = []int{99999, 99999}
@@ -837,6 +878,16 @@ func TestHearGotAtTheLimits(t *testing.T) {
 	}
 	for _, index := range []int{99998, 99999, 100000} {
 		hears(t, "a full one, and not", n, 2, hasUpTo(0, 1, 100000, false, index), n)
+	}
+	all := leaderOf(1, 100000, 100000, termLog(99998, 2, 100000, 100000), 100000, 100000)
+	for _, next := range []int{1, 100000, 100001} {
+		all.Next = []int{next, 1}
+		want := all
+		want.Next = []int{100001, 1}
+		for _, index := range []int{0, 99999, 100000} {
+			hears(t, "a full one, of one that has all", all, 2, hasUpTo(0, 1, 100000, true, index), want)
+			hears(t, "a full one, of one that has all, and not", all, 2, hasUpTo(0, 1, 100000, false, index), want)
+		}
 	}
 	hearsNot(t, "one beyond", n, 2, hasUpTo(0, 1, 100000, true, 100001))
 	n, _ = impl.NodeNew(1, 2)
