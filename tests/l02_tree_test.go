@@ -440,6 +440,7 @@ func copyOf(t impl.Tree) impl.Tree {
 }
 
 func TestTreesByTheWord(t *testing.T) {
+	t.Parallel()
 	d := &dice{1}
 	accepted, refused := 0, 0
 	for i := range 4000 {

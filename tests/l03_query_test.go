@@ -287,6 +287,7 @@ func tellsItsRange(t *testing.T, tree impl.Tree, lo, hi int) {
 }
 
 func TestTreesTellTheirMaps(t *testing.T) {
+	t.Parallel()
 	for _, c := range goodTrees() {
 		tellsItsMap(t, c.name, c.tree)
 	}
@@ -301,6 +302,7 @@ func TestTreesTellTheirMaps(t *testing.T) {
 }
 
 func TestTreesTellTheirRanges(t *testing.T) {
+	t.Parallel()
 	for _, c := range goodTrees() {
 		edges := append(keysIn(c.tree), cutsIn(c.tree)...)
 		edges = append(edges, 0, 999, 1000)

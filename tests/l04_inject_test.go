@@ -452,6 +452,7 @@ func drains(t *testing.T, tree impl.Tree) impl.Tree {
 
 // messages one by one into a new tree, of few keys and of many.
 func TestInjectIsDoneToTheMap(t *testing.T) {
+	t.Parallel()
 	d := &dice{6}
 	deepest, refused := 0, 0
 	for i, keys := range []int{3, 9, 30, 60, 150, 400, 1000, 1000, 1000} {
@@ -487,6 +488,7 @@ func TestInjectIsDoneToTheMap(t *testing.T) {
 }
 
 func TestInjectIntoGrownTrees(t *testing.T) {
+	t.Parallel()
 	d := &dice{7}
 	var depths [8]int
 	grew, more := 0, 0
@@ -608,6 +610,7 @@ func TestBuild(t *testing.T) {
 
 // of so many ascending keys each: what Inject makes of them, as long as that tells them.
 func TestBuildByTheWord(t *testing.T) {
+	t.Parallel()
 	for _, step := range []int{1, 2, 9} {
 		tree := impl.TreeNew()
 		last := (1000 + step - 1) / step

@@ -811,6 +811,7 @@ func agrees(t *testing.T, d *dice, was impl.Disk, tree impl.Tree) impl.Disk {
 }
 
 func TestOldTreeOrNewOne(t *testing.T) {
+	t.Parallel()
 	d := &dice{62}
 	trees := treesToWrite()
 	for i, tree := range trees {
@@ -911,6 +912,7 @@ func allByTheWord(t *testing.T, d impl.Disk, trees ...impl.Tree) (opened, planne
 }
 
 func TestStrewnPagesByTheWord(t *testing.T) {
+	t.Parallel()
 	d := &dice{64}
 	trees := []impl.Tree{leaf(1, 2), fork(cuts(5), leaf(1, 1), leaf(7, 7)), fork(cuts(5, 6, 7), leaf(), leaf(), leaf(), leaf()), tower(3, 0, 999)}
 	opened, planned := 0, 0
@@ -948,6 +950,7 @@ func turned(d *dice, was impl.Disk) impl.Disk {
 }
 
 func TestDisksThatAreTurnedByTheWord(t *testing.T) {
+	t.Parallel()
 	d := &dice{65}
 	opened, nothing := 0, 0
 	for range 300 {

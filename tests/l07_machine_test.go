@@ -674,6 +674,7 @@ func TestDoneBehindOthersIsNotDoneAgain(t *testing.T) {
 }
 
 func TestGrownMachinesByTheWord(t *testing.T) {
+	t.Parallel()
 	d := &dice{73}
 	var depths [8]int
 	for i := range 700 {

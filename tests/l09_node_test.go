@@ -657,6 +657,7 @@ func nodeByTheWord(t *testing.T, n impl.Node, size int, numbers []int) {
 }
 
 func TestThrownNodes(t *testing.T) {
+	t.Parallel()
 	d := &dice{91}
 	for i := range 300 {
 		size := 1 + i%5
@@ -705,6 +706,7 @@ func marredNode(d *dice, n impl.Node) impl.Node {
 }
 
 func TestThrownWrongNodes(t *testing.T) {
+	t.Parallel()
 	d := &dice{92}
 	fine, wrong := 0, 0
 	for i := range 2000 {
@@ -815,6 +817,7 @@ func nodesToKeep() []nodeTurn {
 }
 
 func TestNodesAreNotWrittenInto(t *testing.T) {
+	t.Parallel()
 	for _, c := range nodesToKeep() {
 		plain := turnedNode(c)
 		n, wholes := roomyNode(plain)

@@ -953,6 +953,7 @@ func TestThrownTellers(t *testing.T) {
 }
 
 func TestThrownWrongTellers(t *testing.T) {
+	t.Parallel()
 	d := &dice{102}
 	var asked, fed, took int
 	for i := range 2000 {
@@ -1099,6 +1100,7 @@ func tellsInItsOwnMemory(t *testing.T, name string, plain impl.Node, size int) {
 }
 
 func TestTellersAreNotWrittenInto(t *testing.T) {
+	t.Parallel()
 	for _, c := range nodesToKeep() {
 		for _, role := range roles {
 			n := small(3)

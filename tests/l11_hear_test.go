@@ -1229,6 +1229,7 @@ func heardByTheWord(t *testing.T, c *tally, n impl.Node, size int, r impl.Rpc) i
 }
 
 func TestThrownHearers(t *testing.T) {
+	t.Parallel()
 	d := &dice{111}
 	var c tally
 	for i := range 3000 {
@@ -1247,6 +1248,7 @@ func TestThrownHearers(t *testing.T) {
 }
 
 func TestThrownWrongHearers(t *testing.T) {
+	t.Parallel()
 	d := &dice{112}
 	var c tally
 	for i := range 4000 {
@@ -1372,6 +1374,7 @@ func (p *parley) step(t *testing.T, d *dice, c *tally, next impl.Cmd) {
 
 // P11 over a while, whatever the net does: each node stays right, and so do all of them together.
 func TestHearersOverAWhile(t *testing.T) {
+	t.Parallel()
 	d := &dice{113}
 	var c tally
 	rows := 0
@@ -1451,6 +1454,7 @@ func heardBy(kind int) []impl.Rpc {
 }
 
 func TestHearersAreNotWrittenInto(t *testing.T) {
+	t.Parallel()
 	if !impl.MachineOk(sharedMachine()) || !impl.NodeOk(rightOneMemory(impl.RoLead), 3) {
 		t.Error("no fair question")
 	}

@@ -906,6 +906,7 @@ func worldByTheWord(t *testing.T, d *dice, c *worldTally, w impl.World) {
 }
 
 func TestThrownWorlds(t *testing.T) {
+	t.Parallel()
 	d := &dice{121}
 	var c worldTally
 	for i := range 2000 {
@@ -1179,6 +1180,7 @@ func oneMemoryWorld(role int) impl.World {
 }
 
 func TestWorldsAreNotWrittenInto(t *testing.T) {
+	t.Parallel()
 	for _, role := range roles {
 		n := busy(role, 14)
 		n.Log.Base, n.Commit = 2, 8
